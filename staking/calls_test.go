@@ -1,0 +1,144 @@
+package staking_test
+
+import (
+	"fmt"
+	"testing"
+
+	"staking/api"
+	"staking/staking"
+)
+
+func TestP1NewAtAllNumbers(t *testing.T) {
+	for _, n := range numbers {
+		for _, g := range []api.Genesis{
+			{Balances: []int{n}, Owners: []int{0}, Rates: []int{0}, Top: 1, Mature: 1},
+			{Balances: []int{n, n, n, n, n, n}, Owners: []int{0}, Rates: []int{0}, Top: 1, Mature: 1},
+			{Balances: []int{1}, Owners: []int{n}, Rates: []int{n}, Top: 1, Mature: 1},
+			{Balances: []int{1}, Owners: []int{0}, Rates: []int{0}, Top: n, Mature: n, Fee: n},
+			{Balances: []int{1}, Owners: []int{0}, Rates: []int{n, n}, Top: 1, Mature: 1},
+			{Top: n, Mature: n, Fee: n},
+		} {
+			x, e := staking.New(g)
+			if e != api.OK && e != api.ErrGenesis {
+				t.Errorf("New(%+v) = %d", g, e)
+			}
+			if (x == nil) != (e != api.OK) {
+				t.Errorf("New(%+v): error %d, engine %v", g, e, x)
+			}
+		}
+	}
+}
+
+func TestP1NewAtLongLists(t *testing.T) {
+	long := make([]int, 1000000)
+	for _, g := range []api.Genesis{
+		{Balances: long, Owners: []int{0}, Rates: []int{0}, Top: 1, Mature: 1},
+		{Balances: []int{1}, Owners: long, Rates: long, Top: 1, Mature: 1},
+		{Balances: []int{1}, Owners: []int{0}, Rates: long, Top: 1, Mature: 1},
+		{Balances: []int{1}, Owners: long, Rates: []int{0}, Top: 1, Mature: 1},
+	} {
+		x, e := staking.New(g)
+		if x != nil || e != api.ErrGenesis {
+			t.Errorf("New with long lists = %v, %d, want nil, %d", x, e, api.ErrGenesis)
+		}
+	}
+}
+
+func TestP1CallsAtAllNumbers(t *testing.T) {
+	x := begin(t, api.Genesis{Balances: []int{400000, 600000}, Owners: []int{0}, Rates: []int{10}, Top: 1, Mature: 2, Fee: 10})
+	for _, who := range numbers {
+		for _, to := range numbers {
+			for _, amount := range numbers {
+				x.Send(who, to, amount)
+			}
+			x.Spend(who, to)
+			v := x.See()
+			if supply(v) != 1000000 {
+				t.Fatalf("behind calls with %d and %d there are %d tokens: %+v", who, to, supply(v), v)
+			}
+			if v.Fees < 0 || v.Pool < 0 || v.Balances[0] < 0 || v.Balances[1] < 0 {
+				t.Fatalf("behind calls with %d and %d something is below 0: %+v", who, to, v)
+			}
+		}
+		x.Block()
+	}
+}
+
+func TestP1FirstErrorIsTheAnswer(t *testing.T) {
+	g := example()
+	g.Balances = []int{1000, 9}
+	x := begin(t, g)
+	same(t, "no who, no to, no amount", x.Send(2, 2, 0), api.ErrAccount)
+	same(t, "no fee, no to", x.Send(1, 2, 1), api.ErrFunds)
+	same(t, "no fee, no amount", x.Send(1, 0, 0), api.ErrFunds)
+	same(t, "no to, no amount", x.Send(0, 2, 0), api.ErrAccount)
+	same(t, "no to, no funds", x.Send(0, 2, 5000), api.ErrAccount)
+	same(t, "Spend: no to, no amount", x.Spend(2, 0), api.ErrAccount)
+	same(t, "Spend: no to, no funds", x.Spend(2, 1), api.ErrAccount)
+	same(t, "Spend: no amount, no funds", x.Spend(0, 0), api.ErrAmount)
+}
+
+func TestP2GenesisIsNeitherWrittenNorKept(t *testing.T) {
+	balances := []int{1000, 1000, 77, 77}
+	owners := []int{0, 1, 77}
+	rates := []int{10, 20, 77}
+	g := api.Genesis{Balances: balances[:2], Owners: owners[:2], Rates: rates[:2], Top: 1, Mature: 2, Fee: 10}
+	x := begin(t, g)
+	before := x.See()
+	x.Send(0, 1, 5)
+	x.Block()
+	x.Spend(1, 3)
+	same(t, "balances that were handed in", balances, []int{1000, 1000, 77, 77})
+	same(t, "owners that were handed in", owners, []int{0, 1, 77})
+	same(t, "rates that were handed in", rates, []int{10, 20, 77})
+
+	y := begin(t, g)
+	for i := range balances {
+		balances[i] = 5
+	}
+	for i := range owners {
+		owners[i], rates[i] = 1, 99
+	}
+	same(t, "See behind writes into the lists that were handed in", y.See(), before)
+}
+
+func TestP2WhatComesOutIsTheCallers(t *testing.T) {
+	g := example()
+	g.Owners, g.Rates = []int{0, 1}, []int{10, 20}
+	x := begin(t, g)
+	want := fmt.Sprintf("%+v", x.See())
+	v, w := x.See(), x.See()
+	for i := range v.Balances {
+		v.Balances[i] = -5
+	}
+	for i := range v.Validators {
+		v.Validators[i] = api.Validator{Owner: 9, Rate: 9, Tokens: 9, Shares: 9, Commission: 9, Outstanding: 9, Jailed: true, InSet: true}
+	}
+	same(t, "another answer behind writes into the first", w, want)
+	same(t, "See behind writes into an answer", x.See(), want)
+	x.Send(0, 1, 5)
+	same(t, "an answer behind a later call", w, want)
+}
+
+func TestP2SeeChangesNothing(t *testing.T) {
+	x, y := begin(t, example()), begin(t, example())
+	for i := 0; i < 20; i++ {
+		x.See()
+		x.See()
+		same(t, "Send with and without See", x.Send(i%3, 1, 90), y.Send(i%3, 1, 90))
+		x.See()
+		same(t, "Block with and without See", x.Block(), y.Block())
+	}
+	same(t, "two engines behind the same calls", x.See(), y.See())
+}
+
+func TestP2EnginesAreApart(t *testing.T) {
+	g := example()
+	x, y := begin(t, g), begin(t, g)
+	want := fmt.Sprintf("%+v", y.See())
+	x.Send(0, 1, 5)
+	x.Block()
+	x.Send(1, 0, 500)
+	same(t, "an engine behind the calls on another", y.See(), want)
+	same(t, "an engine that began behind the calls on another", begin(t, g).See(), want)
+}

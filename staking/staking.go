@@ -1,0 +1,99 @@
+// Package staking: accounts, validators, delegations, and how fees come to them: see DOC.md.
+package staking
+
+import "staking/api"
+
+// Engine is the whole state.
+type Engine struct {
+	fee        int
+	height     int
+	balances   []int
+	fees       int
+	pool       int
+	validators []api.Validator
+}
+
+// New begins (P3).
+func New(g api.Genesis) (*Engine, api.Errno) {
+	if !goodGenesis(g) {
+		return nil, api.ErrGenesis
+	}
+	x := &Engine{fee: g.Fee}
+	x.balances = copyNumbers(g.Balances)
+	x.validators = newValidators(g.Owners, g.Rates)
+	return x, api.OK
+}
+
+// See tells all that can be seen (P4).
+func (x *Engine) See() api.View {
+	v := api.View{Height: x.height, Fees: x.fees, Pool: x.pool}
+	v.Balances = copyNumbers(x.balances)
+	v.Validators = copyValidators(x.validators)
+	return v
+}
+
+// Send gives tokens to another account (P6).
+func (x *Engine) Send(who int, to int, amount int) api.Errno {
+	e := x.charge(who)
+	if e != api.OK {
+		return e
+	}
+	e = x.transferError(x.balances[who], to, amount)
+	if e != api.OK {
+		return e
+	}
+	x.balances[who] -= amount
+	x.balances[to] += amount
+	return api.OK
+}
+
+// Spend gives tokens of the pool to an account (P7).
+func (x *Engine) Spend(to int, amount int) api.Errno {
+	e := x.transferError(x.pool, to, amount)
+	if e != api.OK {
+		return e
+	}
+	x.pool -= amount
+	x.balances[to] += amount
+	return api.OK
+}
+
+// Block ends a block (P8).
+func (x *Engine) Block() api.Errno {
+	if x.height >= api.MaxHeight {
+		return api.ErrEnd
+	}
+	x.shareOutFees()
+	x.height++
+	return api.OK
+}
+
+// Bond gives tokens to a validator, for shares (P9).
+func (x *Engine) Bond(who int, val int, amount int) api.Errno { return api.OK }
+
+// Unbond gives shares back, for tokens that come later (P10).
+func (x *Engine) Unbond(who int, val int, shares int) api.Errno { return api.OK }
+
+// Move moves shares from one validator to another (P11).
+func (x *Engine) Move(who int, val int, to int, shares int) api.Errno { return api.OK }
+
+// Due tells what a delegation is due (P12).
+func (x *Engine) Due(who int, val int) (int, api.Errno) { return 0, api.OK }
+
+// Withdraw pays what a delegation is due (P13).
+func (x *Engine) Withdraw(who int, val int) api.Errno { return api.OK }
+
+// Collect pays a validator's commission (P14).
+func (x *Engine) Collect(who int, val int) api.Errno { return api.OK }
+
+// Slash takes a part of what a validator had at a height (P15).
+func (x *Engine) Slash(val int, height int, percent int) api.Errno { return api.OK }
+
+// Free takes a validator out of jail (P16).
+func (x *Engine) Free(who int, val int) api.Errno { return api.OK }
+
+// Export writes all of it as bytes (P17).
+func (x *Engine) Export() string { return "" }
+
+// Import makes an engine of such bytes (P17).
+func Import(s string) (*Engine, api.Errno) { return nil, api.OK }
