@@ -1,7 +1,48 @@
 package staking
 
-// shareOutFees gives all of the fees to the pool: nobody is bonded yet, so no validator is in the set and T of P8 is 0.
+import "staking/api"
+
+// shareOutFees gives all of the fees to the pool, which is what P8 asks where no validator is in the set, or where there is no fee.
 func (x *Engine) shareOutFees() {
 	x.pool += x.fees
 	x.fees = 0
+}
+
+func (x *Engine) payEntries() {
+	var waiting []api.Entry
+	for _, e := range x.entries {
+		if e.Made+x.mature == x.height {
+			x.balances[e.Who] += e.Amount
+		} else {
+			waiting = append(waiting, e)
+		}
+	}
+	x.entries = waiting
+}
+
+func (x *Engine) chooseSet() {
+	for i := range x.validators {
+		x.validators[i].InSet = false
+	}
+	for n := 0; n < x.top; n++ {
+		best := x.bestOutside()
+		if best < 0 {
+			return
+		}
+		x.validators[best].InSet = true
+	}
+}
+
+// bestOutside is the validator that has the next place in the set, or -1 if there is none.
+func (x *Engine) bestOutside() int {
+	best := -1
+	most := 0
+	for i, v := range x.validators {
+		// A later one must have more than an earlier one: of two with as many the lower number goes first.
+		if !v.InSet && !v.Jailed && v.Tokens > most {
+			best = i
+			most = v.Tokens
+		}
+	}
+	return best
 }

@@ -45,22 +45,22 @@ func TestP1NewAtLongLists(t *testing.T) {
 }
 
 func TestP1CallsAtAllNumbers(t *testing.T) {
-	x := begin(t, api.Genesis{Balances: []int{400000, 600000}, Owners: []int{0}, Rates: []int{10}, Top: 1, Mature: 2, Fee: 10})
-	for _, who := range numbers {
-		for _, to := range numbers {
-			for _, amount := range numbers {
-				x.Send(who, to, amount)
+	for _, fee := range []int{0, 10} {
+		x := begin(t, api.Genesis{Balances: []int{400000, 600000}, Owners: []int{0, 1}, Rates: []int{10, 0}, Top: 1, Mature: 2, Fee: fee})
+		for _, who := range numbers {
+			for _, to := range numbers {
+				for _, amount := range numbers {
+					x.Send(who, to, amount)
+					x.Bond(who, to, amount)
+					x.Unbond(who, to, amount)
+					x.Move(who, to, 1, amount)
+					x.Move(who, 0, to, amount)
+				}
+				x.Spend(who, to)
+				sound(t, fmt.Sprintf("calls with %d and %d", who, to), x.See(), 1000000)
 			}
-			x.Spend(who, to)
-			v := x.See()
-			if supply(v) != 1000000 {
-				t.Fatalf("behind calls with %d and %d there are %d tokens: %+v", who, to, supply(v), v)
-			}
-			if v.Fees < 0 || v.Pool < 0 || v.Balances[0] < 0 || v.Balances[1] < 0 {
-				t.Fatalf("behind calls with %d and %d something is below 0: %+v", who, to, v)
-			}
+			x.Block()
 		}
-		x.Block()
 	}
 }
 
@@ -73,6 +73,12 @@ func TestP1FirstErrorIsTheAnswer(t *testing.T) {
 	same(t, "no fee, no amount", x.Send(1, 0, 0), api.ErrFunds)
 	same(t, "no to, no amount", x.Send(0, 2, 0), api.ErrAccount)
 	same(t, "no to, no funds", x.Send(0, 2, 5000), api.ErrAccount)
+	same(t, "Bond: no who, no validator", x.Bond(2, 1, 0), api.ErrAccount)
+	same(t, "Bond: no fee, no validator", x.Bond(1, 1, 0), api.ErrFunds)
+	same(t, "Unbond: no who, no validator", x.Unbond(2, 1, 0), api.ErrAccount)
+	same(t, "Unbond: no fee, no validator", x.Unbond(1, 1, 0), api.ErrFunds)
+	same(t, "Move: no who, no validator", x.Move(2, 1, 1, 0), api.ErrAccount)
+	same(t, "Move: no fee, no validator", x.Move(1, 1, 1, 0), api.ErrFunds)
 	same(t, "Spend: no to, no amount", x.Spend(2, 0), api.ErrAccount)
 	same(t, "Spend: no to, no funds", x.Spend(2, 1), api.ErrAccount)
 	same(t, "Spend: no amount, no funds", x.Spend(0, 0), api.ErrAmount)
@@ -106,6 +112,10 @@ func TestP2WhatComesOutIsTheCallers(t *testing.T) {
 	g := example()
 	g.Owners, g.Rates = []int{0, 1}, []int{10, 20}
 	x := begin(t, g)
+	x.Bond(0, 0, 100)
+	x.Bond(1, 1, 200)
+	x.Unbond(0, 0, 10)
+	x.Unbond(1, 1, 20)
 	want := fmt.Sprintf("%+v", x.See())
 	v, w := x.See(), x.See()
 	for i := range v.Balances {
@@ -114,9 +124,20 @@ func TestP2WhatComesOutIsTheCallers(t *testing.T) {
 	for i := range v.Validators {
 		v.Validators[i] = api.Validator{Owner: 9, Rate: 9, Tokens: 9, Shares: 9, Commission: 9, Outstanding: 9, Jailed: true, InSet: true}
 	}
+	for i := range v.Delegations {
+		v.Delegations[i] = api.Delegation{Who: 9, Val: 9, Shares: 9}
+	}
+	for i := range v.Entries {
+		v.Entries[i] = api.Entry{Who: 9, Val: 9, Made: 9, Amount: 9}
+	}
 	same(t, "another answer behind writes into the first", w, want)
 	same(t, "See behind writes into an answer", x.See(), want)
+	v.Entries = append(v.Entries[:0], api.Entry{Amount: 9})
+	v.Delegations = append(v.Delegations[:0], api.Delegation{Shares: 9})
 	x.Send(0, 1, 5)
+	x.Unbond(0, 0, 1)
+	x.Bond(0, 1, 1)
+	blocks(t, x, 2)
 	same(t, "an answer behind a later call", w, want)
 }
 
@@ -126,6 +147,10 @@ func TestP2SeeChangesNothing(t *testing.T) {
 		x.See()
 		x.See()
 		same(t, "Send with and without See", x.Send(i%3, 1, 90), y.Send(i%3, 1, 90))
+		x.See()
+		same(t, "Bond with and without See", x.Bond(i%3, 0, 30), y.Bond(i%3, 0, 30))
+		x.See()
+		same(t, "Unbond with and without See", x.Unbond(i%2, 0, 7), y.Unbond(i%2, 0, 7))
 		x.See()
 		same(t, "Block with and without See", x.Block(), y.Block())
 	}
@@ -137,7 +162,9 @@ func TestP2EnginesAreApart(t *testing.T) {
 	x, y := begin(t, g), begin(t, g)
 	want := fmt.Sprintf("%+v", y.See())
 	x.Send(0, 1, 5)
+	x.Bond(0, 0, 100)
 	x.Block()
+	x.Unbond(0, 0, 40)
 	x.Send(1, 0, 500)
 	same(t, "an engine behind the calls on another", y.See(), want)
 	same(t, "an engine that began behind the calls on another", begin(t, g).See(), want)

@@ -15,3 +15,9 @@ func copyValidators(list []api.Validator) []api.Validator {
 	copy(fresh, list)
 	return fresh
 }
+
+func copyEntries(list []api.Entry) []api.Entry {
+	fresh := make([]api.Entry, len(list))
+	copy(fresh, list)
+	return fresh
+}

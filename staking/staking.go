@@ -5,12 +5,16 @@ import "staking/api"
 
 // Engine is the whole state.
 type Engine struct {
+	top        int
+	mature     int
 	fee        int
 	height     int
 	balances   []int
 	fees       int
 	pool       int
 	validators []api.Validator
+	shares     [api.MaxAccounts][api.MaxValidators]int
+	entries    []api.Entry
 }
 
 // New begins (P3).
@@ -18,7 +22,7 @@ func New(g api.Genesis) (*Engine, api.Errno) {
 	if !goodGenesis(g) {
 		return nil, api.ErrGenesis
 	}
-	x := &Engine{fee: g.Fee}
+	x := &Engine{top: g.Top, mature: g.Mature, fee: g.Fee}
 	x.balances = copyNumbers(g.Balances)
 	x.validators = newValidators(g.Owners, g.Rates)
 	return x, api.OK
@@ -28,7 +32,11 @@ func New(g api.Genesis) (*Engine, api.Errno) {
 func (x *Engine) See() api.View {
 	v := api.View{Height: x.height, Fees: x.fees, Pool: x.pool}
 	v.Balances = copyNumbers(x.balances)
+	v.Bonded = x.bonded()
+	v.Loose = x.loose()
 	v.Validators = copyValidators(x.validators)
+	v.Delegations = x.delegations()
+	v.Entries = copyEntries(x.entries)
 	return v
 }
 
@@ -65,17 +73,55 @@ func (x *Engine) Block() api.Errno {
 	}
 	x.shareOutFees()
 	x.height++
+	x.payEntries()
+	x.chooseSet()
 	return api.OK
 }
 
 // Bond gives tokens to a validator, for shares (P9).
-func (x *Engine) Bond(who int, val int, amount int) api.Errno { return api.OK }
+func (x *Engine) Bond(who int, val int, amount int) api.Errno {
+	e := x.charge(who)
+	if e != api.OK {
+		return e
+	}
+	e = x.bondError(who, val, amount)
+	if e != api.OK {
+		return e
+	}
+	x.balances[who] -= amount
+	x.join(who, val, amount)
+	return api.OK
+}
 
 // Unbond gives shares back, for tokens that come later (P10).
-func (x *Engine) Unbond(who int, val int, shares int) api.Errno { return api.OK }
+func (x *Engine) Unbond(who int, val int, shares int) api.Errno {
+	e := x.charge(who)
+	if e != api.OK {
+		return e
+	}
+	e = x.unbondError(who, val, shares)
+	if e != api.OK {
+		return e
+	}
+	tokens := x.leave(who, val, shares)
+	x.addEntry(who, val, tokens)
+	return api.OK
+}
 
 // Move moves shares from one validator to another (P11).
-func (x *Engine) Move(who int, val int, to int, shares int) api.Errno { return api.OK }
+func (x *Engine) Move(who int, val int, to int, shares int) api.Errno {
+	e := x.charge(who)
+	if e != api.OK {
+		return e
+	}
+	e = x.moveError(who, val, to, shares)
+	if e != api.OK {
+		return e
+	}
+	tokens := x.leave(who, val, shares)
+	x.join(who, to, tokens)
+	return api.OK
+}
 
 // Due tells what a delegation is due (P12).
 func (x *Engine) Due(who int, val int) (int, api.Errno) { return 0, api.OK }
