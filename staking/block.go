@@ -2,10 +2,28 @@ package staking
 
 import "staking/api"
 
-// shareOutFees gives all of the fees to the pool, which is what P8 asks where no validator is in the set, or where there is no fee.
 func (x *Engine) shareOutFees() {
-	x.pool += x.fees
+	fees := x.fees
+	bonded := x.bonded()
+	left := fees
+	for val := range x.validators {
+		v := x.validators[val]
+		if v.InSet && bonded > 0 {
+			part := fees * v.Tokens / bonded
+			x.takeFees(val, part)
+			left -= part
+		}
+	}
+	x.pool += left
 	x.fees = 0
+}
+
+// takeFees makes all of the amount outstanding, the commission too: what shareOut cuts off stays there.
+func (x *Engine) takeFees(val int, amount int) {
+	commission := amount * x.validators[val].Rate / hundredPercent
+	x.validators[val].Commission += commission
+	x.validators[val].Outstanding += amount
+	x.shareOut(val, amount-commission)
 }
 
 func (x *Engine) payEntries() {

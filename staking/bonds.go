@@ -52,6 +52,7 @@ func (x *Engine) moveError(who int, val int, to int, shares int) api.Errno {
 
 // join takes tokens that were taken from elsewhere already, and that joinError let through.
 func (x *Engine) join(who int, val int, tokens int) {
+	x.pay(who, val)
 	bought := sharesFor(x.validators[val], tokens)
 	x.validators[val].Tokens += tokens
 	x.validators[val].Shares += bought
@@ -60,10 +61,14 @@ func (x *Engine) join(who int, val int, tokens int) {
 
 // leave answers the tokens that went with the shares: where they go is the caller's.
 func (x *Engine) leave(who int, val int, shares int) int {
+	x.pay(who, val)
 	tokens := tokensFor(x.validators[val], shares)
 	x.validators[val].Tokens -= tokens
 	x.validators[val].Shares -= shares
 	x.shares[who][val] -= shares
+	if x.validators[val].Shares == 0 {
+		x.clearOutstanding(val)
+	}
 	return tokens
 }
 

@@ -57,6 +57,13 @@ func TestP1CallsAtAllNumbers(t *testing.T) {
 					x.Move(who, 0, to, amount)
 				}
 				x.Spend(who, to)
+				x.Withdraw(who, to)
+				x.Collect(who, to)
+				x.Free(who, to)
+				d, e := x.Due(who, to)
+				if d < 0 || e != api.OK && d != 0 {
+					t.Errorf("Due(%d, %d) = %d, %d", who, to, d, e)
+				}
 				sound(t, fmt.Sprintf("calls with %d and %d", who, to), x.See(), 1000000)
 			}
 			x.Block()
@@ -79,6 +86,21 @@ func TestP1FirstErrorIsTheAnswer(t *testing.T) {
 	same(t, "Unbond: no fee, no validator", x.Unbond(1, 1, 0), api.ErrFunds)
 	same(t, "Move: no who, no validator", x.Move(2, 1, 1, 0), api.ErrAccount)
 	same(t, "Move: no fee, no validator", x.Move(1, 1, 1, 0), api.ErrFunds)
+	same(t, "Withdraw: no who, no validator", x.Withdraw(2, 1), api.ErrAccount)
+	same(t, "Withdraw: no fee, no validator", x.Withdraw(1, 1), api.ErrFunds)
+	same(t, "Withdraw: no fee, no shares", x.Withdraw(1, 0), api.ErrFunds)
+	same(t, "Withdraw: no validator, no shares", x.Withdraw(0, 1), api.ErrValidator)
+	same(t, "Collect: no who, no validator", x.Collect(2, 1), api.ErrAccount)
+	same(t, "Collect: no fee, no validator", x.Collect(1, 1), api.ErrFunds)
+	same(t, "Collect: no fee, no owner", x.Collect(1, 0), api.ErrFunds)
+	same(t, "Collect: no validator, no owner", x.Collect(0, 1), api.ErrValidator)
+	for _, c := range []struct {
+		who, val int
+		e        api.Errno
+	}{{2, 1, api.ErrAccount}, {2, 0, api.ErrAccount}, {0, 1, api.ErrValidator}, {1, 1, api.ErrValidator}, {1, 0, api.ErrShares}} {
+		_, e := x.Due(c.who, c.val)
+		same(t, fmt.Sprintf("Due(%d, %d)", c.who, c.val), e, c.e)
+	}
 	same(t, "Spend: no to, no amount", x.Spend(2, 0), api.ErrAccount)
 	same(t, "Spend: no to, no funds", x.Spend(2, 1), api.ErrAccount)
 	same(t, "Spend: no amount, no funds", x.Spend(0, 0), api.ErrAmount)
@@ -141,12 +163,18 @@ func TestP2WhatComesOutIsTheCallers(t *testing.T) {
 	same(t, "an answer behind a later call", w, want)
 }
 
-func TestP2SeeChangesNothing(t *testing.T) {
+func TestP2SeeAndDueChangeNothing(t *testing.T) {
 	x, y := begin(t, example()), begin(t, example())
 	for i := 0; i < 20; i++ {
 		x.See()
+		x.Due(0, 0)
+		x.Due(1, 0)
+		x.Due(2, 0)
 		x.See()
 		same(t, "Send with and without See", x.Send(i%3, 1, 90), y.Send(i%3, 1, 90))
+		x.See()
+		x.Due(i%2, 0)
+		same(t, "Withdraw with and without See", x.Withdraw(i%3, 0), y.Withdraw(i%3, 0))
 		x.See()
 		same(t, "Bond with and without See", x.Bond(i%3, 0, 30), y.Bond(i%3, 0, 30))
 		x.See()

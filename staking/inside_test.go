@@ -202,3 +202,78 @@ func TestP8SetLooksAtTokensNotAtShares(t *testing.T) {
 		same(t, fmt.Sprint("the set of ", c.validators), fmt.Sprint(x.validators[0].InSet, x.validators[1].InSet), c.want)
 	}
 }
+
+// inSet begins like slashed, with all validators in the set and so many fees.
+func inSet(t *testing.T, fees int, validators [][2]int) *Engine {
+	t.Helper()
+	x := slashed(t, validators)
+	for i := range x.validators {
+		x.validators[i].InSet = true
+	}
+	x.fees = fees
+	return x
+}
+
+func TestP8AndP12FeesGoByTokensThenByShares(t *testing.T) {
+	x := inSet(t, 31, [][2]int{{400, 200}, {3, 7}, {50, 93}})
+	x.shares[0][0], x.shares[1][0] = 300, 100
+	same(t, "Block", x.Block(), api.OK) // of 31, 300 tokens: 20, 0 and 9
+	v := x.See()
+	same(t, "outstanding and pool", fmt.Sprint(v.Validators[0].Outstanding, v.Validators[1].Outstanding, v.Validators[2].Outstanding, v.Pool), "20 0 9 2")
+	for _, c := range []struct{ who, val, most int }{{0, 0, 15}, {1, 0, 5}, {0, 1, 0}, {0, 2, 9}} {
+		d, e := x.Due(c.who, c.val)
+		if e != api.OK || d > c.most || d < c.most-1 {
+			t.Errorf("Due(%d, %d) = %d, %d, want %d or one less", c.who, c.val, d, e, c.most)
+		}
+	}
+}
+
+func TestP12TokensThatAreLostChangeNothingOfWhatIsDue(t *testing.T) {
+	for _, tokens := range []int{399, 200, 1, 0} {
+		x := inSet(t, 30, [][2]int{{400, 400}})
+		x.Block()
+		before, _ := x.Due(0, 0)
+		x.validators[0].Tokens, x.validators[0].Jailed, x.validators[0].InSet = tokens, true, false
+		after, e := x.Due(0, 0)
+		same(t, fmt.Sprintf("Due with %d tokens left", tokens), fmt.Sprint(after, e), fmt.Sprint(before, api.OK))
+		x.fees = 50
+		x.Block()
+		same(t, "Withdraw", x.Withdraw(0, 0), api.OK)
+		v := x.See()
+		same(t, "balance, outstanding and pool", fmt.Sprint(v.Balances[0], v.Validators[0].Outstanding, v.Pool), fmt.Sprint(500+before, 30-before, 50))
+	}
+}
+
+func TestP10LastShareOfADeadValidator(t *testing.T) {
+	x := inSet(t, 30, [][2]int{{400, 400}})
+	x.validators[0].Rate = 50
+	x.shares[0][0], x.shares[1][0] = 100, 300
+	x.Block()
+	x.validators[0].Tokens = 0
+	a, _ := x.Due(0, 0)
+	b, _ := x.Due(1, 0)
+	same(t, "Unbond of all of one", x.Unbond(0, 0, 100), api.OK)
+	v := x.See()
+	same(t, "validator", v.Validators[0], api.Validator{Rate: 50, Shares: 300, Commission: 15, Outstanding: 30 - a, InSet: true})
+	same(t, "balances and pool", fmt.Sprint(v.Balances, v.Pool), fmt.Sprint([]int{500 + a, 500}, 0))
+	same(t, "Unbond of the last share", x.Unbond(1, 0, 300), api.OK)
+	v = x.See()
+	same(t, "validator", v.Validators[0], api.Validator{Rate: 50, Commission: 15, Outstanding: 15, InSet: true})
+	same(t, "balances and pool", fmt.Sprint(v.Balances, v.Pool), fmt.Sprint([]int{500 + a, 500 + b}, 15-a-b))
+}
+
+// What is refused behind the fee must not pay what is due.
+func TestP9AndP11RefusedPaysNothing(t *testing.T) {
+	x := inSet(t, 40, [][2]int{{400, 400}, {400, 400}})
+	x.Block()
+	x.validators[1].Tokens = 0
+	before := x.See()
+	same(t, "Bond to a dead one", x.Bond(0, 1, 5), api.ErrDead)
+	same(t, "Move to a dead one", x.Move(0, 0, 1, 5), api.ErrDead)
+	same(t, "Move of no token", x.Move(0, 1, 0, 5), api.ErrSmall)
+	x.validators[1].Tokens = 900
+	same(t, "Bond of too few", x.Bond(0, 1, 2), api.ErrSmall)
+	same(t, "Move of too few", x.Move(0, 0, 1, 2), api.ErrSmall)
+	x.validators[1].Tokens = before.Validators[1].Tokens
+	same(t, "See", x.See(), before)
+}

@@ -14,7 +14,10 @@ type Engine struct {
 	pool       int
 	validators []api.Validator
 	shares     [api.MaxAccounts][api.MaxValidators]int
-	entries    []api.Entry
+	// perShare is what was shared out to one share so far, in parts of a token; paidUpTo is how much of that a delegation's last payment took in.
+	perShare [api.MaxValidators]int
+	paidUpTo [api.MaxAccounts][api.MaxValidators]int
+	entries  []api.Entry
 }
 
 // New begins (P3).
@@ -124,19 +127,52 @@ func (x *Engine) Move(who int, val int, to int, shares int) api.Errno {
 }
 
 // Due tells what a delegation is due (P12).
-func (x *Engine) Due(who int, val int) (int, api.Errno) { return 0, api.OK }
+func (x *Engine) Due(who int, val int) (int, api.Errno) {
+	if !x.hasAccount(who) {
+		return 0, api.ErrAccount
+	}
+	e := x.dueError(who, val)
+	if e != api.OK {
+		return 0, e
+	}
+	return x.due(who, val), api.OK
+}
 
 // Withdraw pays what a delegation is due (P13).
-func (x *Engine) Withdraw(who int, val int) api.Errno { return api.OK }
+func (x *Engine) Withdraw(who int, val int) api.Errno {
+	e := x.charge(who)
+	if e != api.OK {
+		return e
+	}
+	e = x.dueError(who, val)
+	if e != api.OK {
+		return e
+	}
+	x.pay(who, val)
+	return api.OK
+}
 
 // Collect pays a validator's commission (P14).
-func (x *Engine) Collect(who int, val int) api.Errno { return api.OK }
+func (x *Engine) Collect(who int, val int) api.Errno {
+	e := x.charge(who)
+	if e != api.OK {
+		return e
+	}
+	e = x.ownerError(who, val)
+	if e != api.OK {
+		return e
+	}
+	x.payCommission(who, val)
+	return api.OK
+}
 
 // Slash takes a part of what a validator had at a height (P15).
 func (x *Engine) Slash(val int, height int, percent int) api.Errno { return api.OK }
 
-// Free takes a validator out of jail (P16).
-func (x *Engine) Free(who int, val int) api.Errno { return api.OK }
+// Free takes a validator out of jail (P16). Its fee alone is built, since P5 asks it of every message.
+func (x *Engine) Free(who int, val int) api.Errno {
+	return x.charge(who)
+}
 
 // Export writes all of it as bytes (P17).
 func (x *Engine) Export() string { return "" }
