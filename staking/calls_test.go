@@ -71,6 +71,28 @@ func TestP1CallsAtAllNumbers(t *testing.T) {
 	}
 }
 
+func TestP1SlashAndFreeAtAllNumbers(t *testing.T) {
+	x := begin(t, api.Genesis{Balances: []int{400000, 600000}, Owners: []int{0, 1}, Rates: []int{10, 0}, Top: 1, Mature: 2, Fee: 10})
+	for _, val := range numbers {
+		x.Bond(0, 0, 150000)
+		x.Bond(1, 1, 150000)
+		x.Unbond(0, 0, 99999)
+		x.Unbond(1, 1, 99999)
+		for _, height := range numbers {
+			for _, percent := range numbers {
+				x.Slash(val, height, percent)
+			}
+			x.Free(val, height)
+			x.Free(height, val)
+			sound(t, fmt.Sprintf("calls with %d and %d", val, height), x.See(), 1000000)
+		}
+		x.Block()
+		x.Unbond(0, 0, 1000000)
+		x.Spend(0, 200000)
+		x.Spend(1, 200000)
+	}
+}
+
 func TestP1FirstErrorIsTheAnswer(t *testing.T) {
 	g := example()
 	g.Balances = []int{1000, 9}
@@ -94,6 +116,12 @@ func TestP1FirstErrorIsTheAnswer(t *testing.T) {
 	same(t, "Collect: no fee, no validator", x.Collect(1, 1), api.ErrFunds)
 	same(t, "Collect: no fee, no owner", x.Collect(1, 0), api.ErrFunds)
 	same(t, "Collect: no validator, no owner", x.Collect(0, 1), api.ErrValidator)
+	same(t, "Free: no who, no validator", x.Free(2, 1), api.ErrAccount)
+	same(t, "Free: no fee, no validator", x.Free(1, 1), api.ErrFunds)
+	same(t, "Free: no fee, no owner", x.Free(1, 0), api.ErrFunds)
+	same(t, "Free: no validator, no owner", x.Free(0, 1), api.ErrValidator)
+	same(t, "Slash: no validator, no height, no part", x.Slash(1, 1, 0), api.ErrValidator)
+	same(t, "Slash: no height, no part", x.Slash(0, 1, 0), api.ErrHeight)
 	for _, c := range []struct {
 		who, val int
 		e        api.Errno
@@ -159,6 +187,8 @@ func TestP2WhatComesOutIsTheCallers(t *testing.T) {
 	x.Send(0, 1, 5)
 	x.Unbond(0, 0, 1)
 	x.Bond(0, 1, 1)
+	x.Slash(0, 0, 50)
+	x.Slash(1, 0, 100)
 	blocks(t, x, 2)
 	same(t, "an answer behind a later call", w, want)
 }
@@ -180,6 +210,10 @@ func TestP2SeeAndDueChangeNothing(t *testing.T) {
 		x.See()
 		same(t, "Unbond with and without See", x.Unbond(i%2, 0, 7), y.Unbond(i%2, 0, 7))
 		x.See()
+		same(t, "Slash with and without See", x.Slash(0, i/2, i), y.Slash(0, i/2, i))
+		x.See()
+		same(t, "Free with and without See", x.Free(i%2, 0), y.Free(i%2, 0))
+		x.See()
 		same(t, "Block with and without See", x.Block(), y.Block())
 	}
 	same(t, "two engines behind the same calls", x.See(), y.See())
@@ -193,6 +227,7 @@ func TestP2EnginesAreApart(t *testing.T) {
 	x.Bond(0, 0, 100)
 	x.Block()
 	x.Unbond(0, 0, 40)
+	x.Slash(0, 0, 50)
 	x.Send(1, 0, 500)
 	same(t, "an engine behind the calls on another", y.See(), want)
 	same(t, "an engine that began behind the calls on another", begin(t, g).See(), want)

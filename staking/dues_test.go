@@ -68,7 +68,7 @@ func TestP5WithdrawCollectAndFreeCostTheFee(t *testing.T) {
 	same(t, "Withdraw", x.Withdraw(0, 0), api.OK)
 	same(t, "balances and fees", fmt.Sprint(x.See().Balances, x.See().Fees), fmt.Sprint([]int{862 + b, 650 + a}, 60))
 	before := x.See()
-	x.Free(0, 0)
+	same(t, "Free of one that is not jailed", x.Free(0, 0), api.ErrJail)
 	v := x.See()
 	same(t, "balances and fees behind Free", fmt.Sprint(v.Balances, v.Fees), fmt.Sprint([]int{852 + b, 650 + a}, 70))
 	v.Balances[0] += 10

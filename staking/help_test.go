@@ -86,6 +86,9 @@ func sound(t *testing.T, what string, v api.View, tokens int) {
 		if w.Tokens < 0 || w.Shares < 0 || w.Shares > 1000000 || w.Tokens > 0 && w.Shares == 0 {
 			t.Fatalf("%s: validator %d: %+v", what, i, w)
 		}
+		if w.Jailed && w.InSet {
+			t.Fatalf("%s: validator %d is jailed and in the set: %+v", what, i, w)
+		}
 		if w.Commission < 0 || w.Outstanding < w.Commission || w.Shares == 0 && w.Outstanding > w.Commission {
 			t.Fatalf("%s: validator %d: %+v", what, i, w)
 		}

@@ -7,7 +7,7 @@ import (
 	"staking/api"
 )
 
-// These tests reach into the engine, because validators with fewer tokens than shares, or in jail, come about by slashes alone.
+// These tests reach into the engine, because slashes lead to few of the pairs of shares and tokens below, and to none with more tokens than shares.
 
 // slashed has at each validator as many shares (of account 0) and tokens as are told.
 func slashed(t *testing.T, validators [][2]int) *Engine {
@@ -78,13 +78,6 @@ func TestP9FirstErrorIsTheAnswer(t *testing.T) {
 	same(t, "small, at a validator that takes no share more", x.Bond(1, 1, 1), api.ErrSmall)
 }
 
-func TestP9AJailedValidatorTakesTokens(t *testing.T) {
-	x := slashed(t, [][2]int{{400, 200}})
-	x.validators[0].Jailed = true
-	same(t, "Bond", x.Bond(1, 0, 50), api.OK)
-	same(t, "validator", x.See().Validators[0], api.Validator{Tokens: 250, Shares: 500, Jailed: true})
-}
-
 func TestP10WhatSharesAreWorth(t *testing.T) {
 	for _, c := range []struct {
 		shares, tokens, leave, worth int
@@ -105,17 +98,6 @@ func TestP10WhatSharesAreWorth(t *testing.T) {
 		same(t, "entries behind "+what, v.Entries, entries)
 		same(t, "balances behind "+what, v.Balances, "[500 500]")
 	}
-}
-
-func TestP10DeadValidatorTakesTokensAgain(t *testing.T) {
-	x := slashed(t, [][2]int{{9, 0}})
-	same(t, "Bond", x.Bond(1, 0, 5), api.ErrDead)
-	same(t, "Unbond of some", x.Unbond(0, 0, 8), api.OK)
-	same(t, "Bond", x.Bond(1, 0, 5), api.ErrDead)
-	same(t, "Unbond of the last share", x.Unbond(0, 0, 1), api.OK)
-	same(t, "entries and delegations", fmt.Sprint(x.See().Entries, x.See().Delegations), "[] []")
-	same(t, "Bond", x.Bond(1, 0, 5), api.OK)
-	same(t, "validator", x.See().Validators[0], api.Validator{Tokens: 5, Shares: 5})
 }
 
 func TestP10FullEvenWhereNoEntryWouldBeMade(t *testing.T) {
@@ -175,18 +157,6 @@ func TestP11WhatMovesAndWhatIsRefused(t *testing.T) {
 	}
 }
 
-func TestP8NobodyJailedOrWithoutTokensIsChosen(t *testing.T) {
-	x := slashed(t, [][2]int{{400, 200}, {9, 0}, {5, 5}, {7, 7}})
-	x.validators[0].Jailed = true
-	x.top = 2
-	same(t, "Block", x.Block(), api.OK)
-	v := x.See()
-	for i, want := range []bool{false, false, true, true} {
-		same(t, fmt.Sprintf("validator %d in the set", i), v.Validators[i].InSet, want)
-	}
-	same(t, "Bonded and Loose", fmt.Sprint(v.Bonded, v.Loose), "12 200")
-}
-
 func TestP8SetLooksAtTokensNotAtShares(t *testing.T) {
 	for _, c := range []struct {
 		validators [][2]int
@@ -226,40 +196,6 @@ func TestP8AndP12FeesGoByTokensThenByShares(t *testing.T) {
 			t.Errorf("Due(%d, %d) = %d, %d, want %d or one less", c.who, c.val, d, e, c.most)
 		}
 	}
-}
-
-func TestP12TokensThatAreLostChangeNothingOfWhatIsDue(t *testing.T) {
-	for _, tokens := range []int{399, 200, 1, 0} {
-		x := inSet(t, 30, [][2]int{{400, 400}})
-		x.Block()
-		before, _ := x.Due(0, 0)
-		x.validators[0].Tokens, x.validators[0].Jailed, x.validators[0].InSet = tokens, true, false
-		after, e := x.Due(0, 0)
-		same(t, fmt.Sprintf("Due with %d tokens left", tokens), fmt.Sprint(after, e), fmt.Sprint(before, api.OK))
-		x.fees = 50
-		x.Block()
-		same(t, "Withdraw", x.Withdraw(0, 0), api.OK)
-		v := x.See()
-		same(t, "balance, outstanding and pool", fmt.Sprint(v.Balances[0], v.Validators[0].Outstanding, v.Pool), fmt.Sprint(500+before, 30-before, 50))
-	}
-}
-
-func TestP10LastShareOfADeadValidator(t *testing.T) {
-	x := inSet(t, 30, [][2]int{{400, 400}})
-	x.validators[0].Rate = 50
-	x.shares[0][0], x.shares[1][0] = 100, 300
-	x.Block()
-	x.validators[0].Tokens = 0
-	a, _ := x.Due(0, 0)
-	b, _ := x.Due(1, 0)
-	same(t, "Unbond of all of one", x.Unbond(0, 0, 100), api.OK)
-	v := x.See()
-	same(t, "validator", v.Validators[0], api.Validator{Rate: 50, Shares: 300, Commission: 15, Outstanding: 30 - a, InSet: true})
-	same(t, "balances and pool", fmt.Sprint(v.Balances, v.Pool), fmt.Sprint([]int{500 + a, 500}, 0))
-	same(t, "Unbond of the last share", x.Unbond(1, 0, 300), api.OK)
-	v = x.See()
-	same(t, "validator", v.Validators[0], api.Validator{Rate: 50, Commission: 15, Outstanding: 15, InSet: true})
-	same(t, "balances and pool", fmt.Sprint(v.Balances, v.Pool), fmt.Sprint([]int{500 + a, 500 + b}, 15-a-b))
 }
 
 // What is refused behind the fee must not pay what is due.

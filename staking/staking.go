@@ -167,11 +167,29 @@ func (x *Engine) Collect(who int, val int) api.Errno {
 }
 
 // Slash takes a part of what a validator had at a height (P15).
-func (x *Engine) Slash(val int, height int, percent int) api.Errno { return api.OK }
+func (x *Engine) Slash(val int, height int, percent int) api.Errno {
+	e := x.slashError(val, height, percent)
+	if e != api.OK {
+		return e
+	}
+	x.slashTokens(val, percent)
+	x.slashEntries(val, height, percent)
+	x.jail(val)
+	return api.OK
+}
 
-// Free takes a validator out of jail (P16). Its fee alone is built, since P5 asks it of every message.
+// Free takes a validator out of jail (P16).
 func (x *Engine) Free(who int, val int) api.Errno {
-	return x.charge(who)
+	e := x.charge(who)
+	if e != api.OK {
+		return e
+	}
+	e = x.freeError(who, val)
+	if e != api.OK {
+		return e
+	}
+	x.validators[val].Jailed = false
+	return api.OK
 }
 
 // Export writes all of it as bytes (P17).

@@ -311,6 +311,49 @@ func (w *twin) collect(who int, val int) {
 	w.agree(fmt.Sprintf("Collect(%d, %d)", who, val), w.x.Collect(who, val), e)
 }
 
+func (w *twin) slash(val int, height int, percent int) {
+	w.t.Helper()
+	e := api.OK
+	switch {
+	case w.noValidator(val):
+		e = api.ErrValidator
+	case height < 0 || height > w.v.Height:
+		e = api.ErrHeight
+	case percent < 1 || percent > 100:
+		e = api.ErrPart
+	default:
+		k := &w.v.Validators[val]
+		before := k.Tokens
+		k.Tokens -= k.Tokens * percent / 100
+		w.v.Pool += before - k.Tokens
+		k.Jailed, k.InSet = true, false
+		for i, n := range w.v.Entries {
+			if n.Val == val && n.Made >= height {
+				w.v.Entries[i].Amount -= n.Amount * percent / 100
+				w.v.Pool += n.Amount - w.v.Entries[i].Amount
+			}
+		}
+	}
+	w.agree(fmt.Sprintf("Slash(%d, %d, %d)", val, height, percent), w.x.Slash(val, height, percent), e)
+}
+
+func (w *twin) free(who int, val int) {
+	w.t.Helper()
+	e := w.message(who)
+	switch {
+	case e != api.OK:
+	case w.noValidator(val):
+		e = api.ErrValidator
+	case w.v.Validators[val].Owner != who:
+		e = api.ErrOwner
+	case !w.v.Validators[val].Jailed:
+		e = api.ErrJail
+	default:
+		w.v.Validators[val].Jailed = false
+	}
+	w.agree(fmt.Sprintf("Free(%d, %d)", who, val), w.x.Free(who, val), e)
+}
+
 func (w *twin) block() {
 	w.t.Helper()
 	e := api.OK

@@ -54,6 +54,30 @@ func (w *twin) step(d *dice, most int) {
 	}
 }
 
+// harshStep makes a step, or slashes a validator, or frees one.
+func (w *twin) harshStep(d *dice, most int) {
+	w.t.Helper()
+	val := d.pick(len(w.v.Validators))
+	switch d.pick(30) {
+	case 0:
+		w.slash(val, d.pick(w.v.Height+1), 1+d.pick(30))
+	case 1:
+		w.slash(val, w.v.Height-d.pick(w.g.Mature+1), 1+d.pick(100))
+	case 2:
+		w.slash(d.pick(3)-1, w.v.Height+d.pick(3)-1, 99+d.pick(3))
+	case 3:
+		w.slash(val, w.v.Height, d.pick(3)-1)
+	case 4, 5, 6:
+		w.free(w.v.Validators[val].Owner, val)
+	case 7:
+		w.free(d.pick(len(w.v.Balances)+1), d.pick(len(w.v.Validators)+1))
+	case 8:
+		w.spend(d.pick(len(w.v.Balances)), w.v.Pool/3)
+	default:
+		w.step(d, most)
+	}
+}
+
 func TestP5AndP8ToP14WalksAgreeWithExactFractions(t *testing.T) {
 	seen := [16]int{}
 	for seed, c := range []struct {
@@ -77,6 +101,34 @@ func TestP5AndP8ToP14WalksAgreeWithExactFractions(t *testing.T) {
 		}
 	}
 	for _, e := range []api.Errno{api.OK, api.ErrAccount, api.ErrValidator, api.ErrFunds, api.ErrAmount, api.ErrShares, api.ErrFull, api.ErrOwner} {
+		if seen[e] == 0 {
+			t.Errorf("the walks never met error %d", e)
+		}
+	}
+}
+
+func TestP5AndP8ToP16WalksWithSlashesAgreeWithExactFractions(t *testing.T) {
+	seen := [16]int{}
+	for seed, c := range []struct {
+		g    api.Genesis
+		most int
+	}{
+		{api.Genesis{Balances: []int{1000, 1000}, Owners: []int{0}, Rates: []int{10}, Top: 1, Mature: 2, Fee: 10}, 300},
+		{api.Genesis{Balances: []int{50000, 0, 50000, 70}, Owners: []int{0, 1, 3}, Rates: []int{33, 50, 0}, Top: 2, Mature: 1, Fee: 7}, 600},
+		{api.Genesis{Balances: []int{300, 300, 300, 300, 300, 300}, Owners: []int{5, 4, 3, 2, 1}, Rates: []int{0, 1, 50, 99, 100}, Top: 5, Mature: 20, Fee: 1}, 9},
+		{api.Genesis{Balances: []int{166666, 166667, 166667, 166667, 166667, 166666}, Owners: []int{0, 0, 1, 1, 2}, Rates: []int{5, 7, 11, 13, 17}, Top: 3, Mature: 5, Fee: 100}, 150000},
+		{api.Genesis{Balances: []int{500000, 500000}, Owners: []int{0, 1, 1, 0}, Rates: []int{20, 0, 3, 100}, Top: 4, Mature: 4, Fee: 100}, 400000},
+	} {
+		w := newTwin(t, c.g)
+		d := &dice{seed + 101}
+		for i := 0; i < 4500; i++ {
+			w.harshStep(d, c.most)
+		}
+		for e, n := range w.seen {
+			seen[e] += n
+		}
+	}
+	for _, e := range []api.Errno{api.OK, api.ErrDead, api.ErrSmall, api.ErrFull, api.ErrOwner, api.ErrJail, api.ErrHeight, api.ErrPart} {
 		if seen[e] == 0 {
 			t.Errorf("the walks never met error %d", e)
 		}
