@@ -193,7 +193,7 @@ func TestP2WhatComesOutIsTheCallers(t *testing.T) {
 	same(t, "an answer behind a later call", w, want)
 }
 
-func TestP2SeeAndDueChangeNothing(t *testing.T) {
+func TestP2SeeDueAndExportChangeNothing(t *testing.T) {
 	x, y := begin(t, example()), begin(t, example())
 	for i := 0; i < 20; i++ {
 		x.See()
@@ -201,22 +201,29 @@ func TestP2SeeAndDueChangeNothing(t *testing.T) {
 		x.Due(1, 0)
 		x.Due(2, 0)
 		x.See()
-		same(t, "Send with and without See", x.Send(i%3, 1, 90), y.Send(i%3, 1, 90))
+		x.Export()
+		same(t, "Send with and without See and Export", x.Send(i%3, 1, 90), y.Send(i%3, 1, 90))
 		x.See()
 		x.Due(i%2, 0)
-		same(t, "Withdraw with and without See", x.Withdraw(i%3, 0), y.Withdraw(i%3, 0))
+		same(t, "Withdraw with and without See and Export", x.Withdraw(i%3, 0), y.Withdraw(i%3, 0))
 		x.See()
-		same(t, "Bond with and without See", x.Bond(i%3, 0, 30), y.Bond(i%3, 0, 30))
+		x.Export()
+		same(t, "Bond with and without See and Export", x.Bond(i%3, 0, 30), y.Bond(i%3, 0, 30))
 		x.See()
-		same(t, "Unbond with and without See", x.Unbond(i%2, 0, 7), y.Unbond(i%2, 0, 7))
+		x.Export()
+		same(t, "Unbond with and without See and Export", x.Unbond(i%2, 0, 7), y.Unbond(i%2, 0, 7))
 		x.See()
-		same(t, "Slash with and without See", x.Slash(0, i/2, i), y.Slash(0, i/2, i))
+		x.Export()
+		same(t, "Slash with and without See and Export", x.Slash(0, i/2, i), y.Slash(0, i/2, i))
 		x.See()
-		same(t, "Free with and without See", x.Free(i%2, 0), y.Free(i%2, 0))
+		x.Export()
+		same(t, "Free with and without See and Export", x.Free(i%2, 0), y.Free(i%2, 0))
 		x.See()
-		same(t, "Block with and without See", x.Block(), y.Block())
+		x.Export()
+		same(t, "Block with and without See and Export", x.Block(), y.Block())
 	}
 	same(t, "two engines behind the same calls", x.See(), y.See())
+	same(t, "exports of two engines behind the same calls", x.Export(), y.Export())
 }
 
 func TestP2EnginesAreApart(t *testing.T) {

@@ -24,10 +24,15 @@ func (x *Engine) dueError(who int, val int) api.Errno {
 	return api.OK
 }
 
+// pending is what was shared out to one share since the delegation was made or last paid, in parts of a token.
+func (x *Engine) pending(who int, val int) int {
+	return x.perShare[val] - x.paidUpTo[who][val]
+}
+
 // due is 0 where there is no delegation. The product is at most partsOfToken times what is outstanding.
 func (x *Engine) due(who int, val int) int {
-	since := x.perShare[val] - x.paidUpTo[who][val]
-	return x.shares[who][val] * since / partsOfToken
+	pending := x.pending(who, val)
+	return x.shares[who][val] * pending / partsOfToken
 }
 
 // pay must come before a delegation's shares change, since due takes it that they are as many as they were in all blocks since. A delegation that is about to be made begins by it, too: it gets nothing of earlier blocks.

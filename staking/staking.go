@@ -14,7 +14,7 @@ type Engine struct {
 	pool       int
 	validators []api.Validator
 	shares     [api.MaxAccounts][api.MaxValidators]int
-	// perShare is what was shared out to one share so far, in parts of a token; paidUpTo is how much of that a delegation's last payment took in.
+	// perShare is what was shared out to one share since New or Import, in parts of a token; paidUpTo is where it stood at a delegation's last payment, below 0 if that lies before the Import.
 	perShare [api.MaxValidators]int
 	paidUpTo [api.MaxAccounts][api.MaxValidators]int
 	entries  []api.Entry
@@ -193,7 +193,28 @@ func (x *Engine) Free(who int, val int) api.Errno {
 }
 
 // Export writes all of it as bytes (P17).
-func (x *Engine) Export() string { return "" }
+func (x *Engine) Export() string {
+	w := &writer{}
+	x.writeGenesis(w)
+	x.writeChain(w)
+	x.writeValidators(w)
+	x.writeDelegations(w)
+	x.writeEntries(w)
+	return string(w.text)
+}
 
 // Import makes an engine of such bytes (P17).
-func Import(s string) (*Engine, api.Errno) { return nil, api.OK }
+func Import(s string) (*Engine, api.Errno) {
+	if len(s) > api.MaxExport {
+		return nil, api.ErrText
+	}
+	x, ok := readEngine(s)
+	if !ok || !x.consistent() {
+		return nil, api.ErrText
+	}
+	// The numbers may be good and the bytes none of Export's all the same: with a zero too many, or with more behind the last number.
+	if x.Export() != s {
+		return nil, api.ErrText
+	}
+	return x, api.OK
+}
